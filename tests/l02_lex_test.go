@@ -294,6 +294,22 @@ func TestUnlexOfTheFirstMaxTextTokens(t *testing.T) {
 	}
 }
 
+// TestUnlexOfTokensThatStoodClose: the blanks that Unlex lays between tokens may
+// make a text that is longer than Lex takes; the words of both functions hold.
+func TestUnlexOfTokensThatStoodClose(t *testing.T) {
+	l, bad := impl.Lex(strings.Repeat("a1", impl.MaxText/2))
+	if bad != -1 || len(l) != impl.MaxText {
+		t.Fatal("Lex of tokens that stand close", len(l), bad)
+	}
+	s := impl.Unlex(l)
+	if s != strings.Repeat("a 1 ", impl.MaxText/2-1)+"a 1" {
+		t.Error("Unlex of tokens that stood close", len(s))
+	}
+	if again, bad := impl.Lex(s); bad != impl.MaxText || len(again) != 0 {
+		t.Error("Lex of what Unlex made of them", len(again), bad)
+	}
+}
+
 func TestUnlexLeavesItsTokensAsTheyAre(t *testing.T) {
 	l, _ := impl.Lex("(add xy 12) nil")
 	before := slices.Clone(l)
