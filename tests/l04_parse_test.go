@@ -621,11 +621,7 @@ func TestTextsOfAnyBytes(t *testing.T) {
 			}
 		}
 	}
-	state := uint32(1)
-	next := func(n int) int {
-		state = state*1664525 + 1013904223
-		return int(state>>8) % n
-	}
+	next := dice(1)
 	parts := append([]string{"(", "(", "(", ")", ")", ")", " ", " ", "\n", "#", "x", "y", "0", "65535", "65536", "@", "\xff"}, keys...)
 	for range 30000 {
 		var s strings.Builder

@@ -538,11 +538,7 @@ func TestPrintKeepsNothing(t *testing.T) {
 // TestPrintOfAnyNodes: no list makes Print, PrintPart or KeyOf panic, and there is
 // a text just where the nodes are right.
 func TestPrintOfAnyNodes(t *testing.T) {
-	state := uint32(1)
-	next := func(n int) int {
-		state = state*1664525 + 1013904223
-		return int(state>>8) % n
-	}
+	next := dice(1)
 	numbers := []int{0, 0, 0, 1, 2, 3, -1, 4, 150, 65535, 65536, math.MinInt, math.MaxInt}
 	names := []string{"", "", "x", "y", "abcdefgh", "abcdefghi", "fun", "\xff"}
 	right := 0

@@ -614,28 +614,42 @@ func TestScopesOfOneWrongField(t *testing.T) {
 	}
 }
 
-func TestScopesOfWrongLists(t *testing.T) {
+// wrongLists are lists that are not right, some of them with names that are free
+// or bound, and some without names.
+func wrongLists() map[string][]impl.Node {
 	one, name := impl.Node{Kind: impl.NInt, N: 1}, impl.Node{Kind: impl.NVar, Name: "x"}
-	for what, l := range map[string][]impl.Node{
+	return map[string][]impl.Node{
 		"nil":                                nil,
 		"no nodes":                           {},
 		"room for nodes":                     make([]impl.Node, 0, 5),
 		"the zero node":                      {{}},
+		"kind 20":                            {{Kind: 20}},
 		"two programs":                       {name, name},
+		"two numbers":                        {one, one},
 		"the last part begins at 1":          {one, name, {Kind: impl.NFun, A: 1, Name: "x"}},
 		"both kids are one node":             {name, name, {Kind: impl.NLet, A: 1, B: 1, Name: "x"}},
+		"both kids are one number":           {one, one, {Kind: impl.NPair, A: 1, B: 1}},
 		"the kids stand the other way round": {one, name, {Kind: impl.NLet, A: 1, B: 0, Name: "x"}},
 		"a kid is itself":                    {{Kind: impl.NFun, Name: "x"}},
 		"a kid is behind its node":           {{Kind: impl.NFun, A: 1, Name: "x"}, name},
 		"a ring":                             {{Kind: impl.NFun, A: 1, Name: "x"}, {Kind: impl.NFun, A: 0, Name: "x"}},
 		"a kid is missing":                   {name, {Kind: impl.NLet, A: -1, B: 0, Name: "x"}},
+		"a kid beside a number":              {one, {Kind: impl.NInt, A: 1}},
 		"one more behind a right one":        {name, {Kind: impl.NFun, Name: "x"}, name},
 		"no name is bound":                   {name, {Kind: impl.NFun}},
 		"one of two names is bound":          {name, name, {Kind: impl.NRec, B: 1, Name: "x"}},
 		"a key is bound":                     {name, {Kind: impl.NFun, Name: "let"}},
+		"a key is bound over a number":       {one, {Kind: impl.NFun, Name: "let"}},
 		"a key is used":                      {{Kind: impl.NVar, Name: "let"}, {Kind: impl.NFun, Name: "x"}},
 		"two names for one":                  {name, {Kind: impl.NFun, Name: "x", Other: "y"}},
-	} {
+		"a number that is too great":         {{Kind: impl.NInt, N: 65536}},
+		"a number below 0":                   {{Kind: impl.NInt, N: -1}},
+		"a fifth operation":                  {one, one, {Kind: impl.NPrim, A: 0, B: 1, N: 4}},
+	}
+}
+
+func TestScopesOfWrongLists(t *testing.T) {
+	for what, l := range wrongLists() {
 		mustHaveNoScope(t, what, l)
 		if impl.ParentOf(l, 0) != -1 || impl.BinderOf(l, 0) != noBinder || len(impl.Visible(l, 0)) != 0 || len(impl.UsesOf(l, impl.Bind{})) != 0 {
 			t.Errorf("node 0 of %s", what)
@@ -669,6 +683,18 @@ func askScopes(l []impl.Node) {
 	}
 }
 
+// mustLeaveAlone asks with a list behind which there is room: neither is written
+// into.
+func mustLeaveAlone(t *testing.T, l []impl.Node, ask func(l []impl.Node)) {
+	t.Helper()
+	room := append(slices.Clone(l), slices.Repeat([]impl.Node{{Kind: 99, Name: "behind"}}, 10)...)
+	before := slices.Clone(room)
+	ask(room[:len(l)])
+	if !slices.Equal(room, before) {
+		t.Fatalf("%s were written into", tell(l))
+	}
+}
+
 // TestScopesLeaveNodesAsTheyAre: neither a list nor the room behind it is written
 // into.
 func TestScopesLeaveNodesAsTheyAre(t *testing.T) {
@@ -678,12 +704,7 @@ func TestScopesLeaveNodesAsTheyAre(t *testing.T) {
 		programs = append(programs, l, turned(l, len(l)-1, func(n *impl.Node) { n.N = -1 }))
 	}
 	for _, l := range programs {
-		room := append(slices.Clone(l), slices.Repeat([]impl.Node{{Kind: 99, Name: "behind"}}, 10)...)
-		before := slices.Clone(room)
-		askScopes(room[:len(l)])
-		if !slices.Equal(room, before) {
-			t.Fatalf("%s were written into", tell(l))
-		}
+		mustLeaveAlone(t, l, askScopes)
 	}
 }
 
@@ -722,36 +743,48 @@ func TestScopesKeepNothing(t *testing.T) {
 	}
 }
 
-// TestScopesOfAnyNodes: no list makes a function of chapter 6 panic, and each
-// tells of it what it should, right or not.
-func TestScopesOfAnyNodes(t *testing.T) {
-	state := uint32(7)
-	next := func(n int) int {
+// dice tells numbers below n that look random, and are the same in each run.
+func dice(state uint32) func(n int) int {
+	return func(n int) int {
 		state = state*1664525 + 1013904223
 		return int(state>>8) % n
 	}
-	numbers := []int{0, 0, 0, 1, 2, 3, -1, 4, 150, 65535, 65536, math.MinInt, math.MaxInt}
-	names := []string{"x", "y", "x", "", "y", "abcdefghi", "fun", "\xff"}
+}
+
+// strayFields are numbers of which few are right in a field of a node.
+var strayFields = []int{0, 0, 0, 1, 2, 3, -1, 4, 150, 65535, 65536, math.MinInt, math.MaxInt}
+
+// anyNodes are less than most nodes, kinds that bind more often than others. Many
+// lists of few are right: names are mostly one of the first three, which are.
+func anyNodes(next func(n int) int, most int, names []string) []impl.Node {
+	l := make([]impl.Node, next(most))
+	for i := range l {
+		s := shapes[[]int{0, 2, 4, 5, 13, 18, next(19)}[next(7)]]
+		l[i] = impl.Node{Kind: s.kind}
+		for k := range s.kids {
+			*[]*int{&l[i].A, &l[i].B, &l[i].C}[k] = i - s.kids + k
+		}
+		if s.names >= 1 {
+			l[i].Name = names[next(3)]
+		}
+		if s.names >= 2 {
+			l[i].Other = names[next(3)]
+		}
+		for range next(30) / 28 {
+			*[]*int{&l[i].Kind, &l[i].A, &l[i].B, &l[i].C, &l[i].N}[next(5)] = strayFields[next(len(strayFields))]
+			*[]*string{&l[i].Name, &l[i].Other}[next(2)] = names[next(len(names))]
+		}
+	}
+	return l
+}
+
+// TestScopesOfAnyNodes: no list makes a function of chapter 6 panic, and each
+// tells of it what it should, right or not.
+func TestScopesOfAnyNodes(t *testing.T) {
+	next := dice(7)
 	right := 0
 	for range 40000 {
-		l := make([]impl.Node, next(7))
-		for i := range l {
-			s := shapes[[]int{0, 2, 4, 5, 13, 18, next(19)}[next(7)]]
-			l[i] = impl.Node{Kind: s.kind}
-			for k := range s.kids {
-				*[]*int{&l[i].A, &l[i].B, &l[i].C}[k] = i - s.kids + k
-			}
-			if s.names >= 1 {
-				l[i].Name = names[next(3)]
-			}
-			if s.names >= 2 {
-				l[i].Other = names[next(3)]
-			}
-			for range next(30) / 28 {
-				*[]*int{&l[i].Kind, &l[i].A, &l[i].B, &l[i].C, &l[i].N}[next(5)] = numbers[next(len(numbers))]
-				*[]*string{&l[i].Name, &l[i].Other}[next(2)] = names[next(len(names))]
-			}
-		}
+		l := anyNodes(next, 7, []string{"x", "y", "x", "", "y", "abcdefghi", "fun", "\xff"})
 		if rightByRule(l) {
 			right++
 			mustScope(t, l)

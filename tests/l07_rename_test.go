@@ -828,26 +828,7 @@ func TestNamesOfOneWrongField(t *testing.T) {
 }
 
 func TestNamesOfWrongLists(t *testing.T) {
-	one, name := impl.Node{Kind: impl.NInt, N: 1}, impl.Node{Kind: impl.NVar, Name: "x"}
-	for what, l := range map[string][]impl.Node{
-		"nil":                                nil,
-		"no nodes":                           {},
-		"room for nodes":                     make([]impl.Node, 0, 5),
-		"the zero node":                      {{}},
-		"two programs":                       {name, name},
-		"the last part begins at 1":          {one, name, {Kind: impl.NFun, A: 1, Name: "x"}},
-		"both kids are one node":             {name, name, {Kind: impl.NLet, A: 1, B: 1, Name: "x"}},
-		"the kids stand the other way round": {one, name, {Kind: impl.NLet, A: 1, B: 0, Name: "x"}},
-		"a kid is itself":                    {{Kind: impl.NFun, Name: "x"}},
-		"a kid is behind its node":           {{Kind: impl.NFun, A: 1, Name: "x"}, name},
-		"a ring":                             {{Kind: impl.NFun, A: 1, Name: "x"}, {Kind: impl.NFun, A: 0, Name: "x"}},
-		"one more behind a right one":        {name, {Kind: impl.NFun, Name: "x"}, name},
-		"no name is bound":                   {name, {Kind: impl.NFun}},
-		"one of two names is bound":          {name, name, {Kind: impl.NRec, B: 1, Name: "x"}},
-		"a key is bound":                     {name, {Kind: impl.NFun, Name: "let"}},
-		"a key is used":                      {{Kind: impl.NVar, Name: "let"}, {Kind: impl.NFun, Name: "x"}},
-		"two names for one":                  {name, {Kind: impl.NFun, Name: "x", Other: "y"}},
-	} {
+	for what, l := range wrongLists() {
 		mustHaveNoNames(t, what, l)
 	}
 }
@@ -881,13 +862,10 @@ func TestNamesLeaveNodesAsTheyAre(t *testing.T) {
 		programs = append(programs, l, turned(l, len(l)-1, func(n *impl.Node) { n.N = -1 }))
 	}
 	for _, l := range programs {
-		room := append(slices.Clone(l), slices.Repeat([]impl.Node{{Kind: 99, Name: "behind"}}, 10)...)
-		before := slices.Clone(room)
-		askNames(room[:len(l)], programs[5])
-		askNames(programs[5], room[:len(l)])
-		if !slices.Equal(room, before) {
-			t.Fatalf("%s were written into", tell(l))
-		}
+		mustLeaveAlone(t, l, func(l []impl.Node) {
+			askNames(l, programs[5])
+			askNames(programs[5], l)
+		})
 	}
 }
 
@@ -953,34 +931,12 @@ func TestNamesKeepNothing(t *testing.T) {
 // TestNamesOfAnyNodes: no list, binder or text makes a function of chapter 7
 // panic, and each tells what it should, right or not.
 func TestNamesOfAnyNodes(t *testing.T) {
-	state := uint32(11)
-	next := func(n int) int {
-		state = state*1664525 + 1013904223
-		return int(state>>8) % n
-	}
-	numbers := []int{0, 0, 0, 1, 2, 3, -1, 4, 150, 65535, 65536, math.MinInt, math.MaxInt}
+	next := dice(11)
 	names := []string{"x", "zqa", "zqb", "", "y", "abcdefghi", "fun", "\xff"}
 	right := 0
 	var before []impl.Node
 	for range 40000 {
-		l := make([]impl.Node, next(9))
-		for i := range l {
-			s := shapes[[]int{0, 2, 4, 5, 13, 18, next(19)}[next(7)]]
-			l[i] = impl.Node{Kind: s.kind}
-			for k := range s.kids {
-				*[]*int{&l[i].A, &l[i].B, &l[i].C}[k] = i - s.kids + k
-			}
-			if s.names >= 1 {
-				l[i].Name = names[next(3)]
-			}
-			if s.names >= 2 {
-				l[i].Other = names[next(3)]
-			}
-			for range next(30) / 28 {
-				*[]*int{&l[i].Kind, &l[i].A, &l[i].B, &l[i].C, &l[i].N}[next(5)] = numbers[next(len(numbers))]
-				*[]*string{&l[i].Name, &l[i].Other}[next(2)] = names[next(len(names))]
-			}
-		}
+		l := anyNodes(next, 9, names)
 		if !rightByRule(l) {
 			mustHaveNoNames(t, "any nodes", l)
 			continue
@@ -991,7 +947,7 @@ func TestNamesOfAnyNodes(t *testing.T) {
 			mustBeAlpha(t, l, before, alphaByRule(l, before))
 		}
 		before = l
-		mustRename(t, l, impl.Bind{Node: numbers[next(len(numbers))], Role: numbers[next(len(numbers))]}, names[next(len(names))])
+		mustRename(t, l, impl.Bind{Node: strayFields[next(len(strayFields))], Role: strayFields[next(len(strayFields))]}, names[next(len(names))])
 	}
 	if right < 500 {
 		t.Errorf("only %d of the lists were right", right)

@@ -969,11 +969,7 @@ func TestTypesKeepNothing(t *testing.T) {
 // TestTypesOfAnyTables: no table and no number makes a function of chapter 8
 // panic, and each tells what it should, right or not.
 func TestTypesOfAnyTables(t *testing.T) {
-	state := uint32(8)
-	next := func(n int) int {
-		state = state*1664525 + 1013904223
-		return int(state>>8) % n
-	}
+	next := dice(8)
 	numbers := []int{0, 0, 1, 2, -1, -2, 5, 6, 40, 41, 1 << 32, math.MinInt, math.MaxInt}
 	right, one, apart := 0, 0, 0
 	for round := range 12000 {
