@@ -1088,14 +1088,14 @@ func mustRunAsEver(t *testing.T, l []impl.Node, next func(n int) int) impl.Resul
 	return whole
 }
 
-// TestRunsOfAllSmallPrograms: all closed programs of up to five nodes that have one
-// name for all.
+// TestRunsOfAllSmallPrograms: programs of up to five nodes, of all shapes, with two
+// names or one for all, and with some numbers and operations.
 func TestRunsOfAllSmallPrograms(t *testing.T) {
 	next := dice(11)
 	ends := map[int]int{}
 	for size, programs := range programsUpTo(5) {
-		for _, l := range programs {
-			for _, m := range [][]impl.Node{l, namedBy(l, 1, 0)} {
+		for i, l := range programs {
+			for _, m := range [][]impl.Node{l, namedBy(l, 1, 0), namedBy(dressed(l, i), 1, 0)} {
 				if freeByRule(m) {
 					mustNotRun(t, "a free name", m, impl.MaxFuel)
 					mustNotRun(t, "a free name", m, 0)
